@@ -4,6 +4,7 @@ import (
 	"slices"
 
 	"lorgnette/api"
+	"lorgnette/clone"
 )
 
 // Get is what an object has for a key.
@@ -18,7 +19,7 @@ func Get(v api.Value, key string) (api.Value, api.Errno) {
 	if at < 0 {
 		return api.Value{}, api.OK
 	}
-	return clone(v.Obj[at].Val), api.OK
+	return clone.Value(v.Obj[at].Val), api.OK
 }
 
 // With sets a key.
@@ -32,8 +33,8 @@ func With(v api.Value, key string, x api.Value) (api.Value, api.Errno) {
 	if Depth(x) >= api.MaxDepth { // what else the object has is no deeper than it may be
 		return api.Value{}, api.ErrDepth
 	}
-	fields := cloneFields(v.Obj)
-	field := api.Field{Key: key, Val: clone(x)}
+	fields := clone.Fields(v.Obj)
+	field := api.Field{Key: key, Val: clone.Value(x)}
 	if at := placeOf(fields, key); at >= 0 {
 		fields[at] = field
 	} else {
@@ -50,7 +51,7 @@ func Without(v api.Value, key string) (api.Value, api.Errno) {
 	if !mayHaveKeys(v) {
 		return api.Value{}, api.ErrKind
 	}
-	v = clone(v)
+	v = clone.Value(v)
 	if at := placeOf(v.Obj, key); at >= 0 {
 		v.Obj = slices.Delete(v.Obj, at, at+1)
 	}
@@ -67,30 +68,4 @@ func placeOf(fields []api.Field, key string) int {
 	return slices.IndexFunc(fields, func(field api.Field) bool {
 		return field.Key == key
 	})
-}
-
-// clone is a value that shares no list with the one it is made from.
-func clone(v api.Value) api.Value {
-	v.Num.Limbs = slices.Clone(v.Num.Limbs)
-	v.Arr = cloneItems(v.Arr)
-	v.Obj = cloneFields(v.Obj)
-	return v
-}
-
-// cloneItems are items' clones.
-func cloneItems(items []api.Value) []api.Value {
-	l := make([]api.Value, len(items))
-	for i, item := range items {
-		l[i] = clone(item)
-	}
-	return l
-}
-
-// cloneFields are the same keys, with clones of what they have.
-func cloneFields(fields []api.Field) []api.Field {
-	l := make([]api.Field, len(fields))
-	for i, field := range fields {
-		l[i] = api.Field{Key: field.Key, Val: clone(field.Val)}
-	}
-	return l
 }

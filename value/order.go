@@ -5,6 +5,7 @@ import (
 	"slices"
 
 	"lorgnette/api"
+	"lorgnette/clone"
 	"lorgnette/dec"
 	"lorgnette/utf"
 )
@@ -31,7 +32,7 @@ func Sort(l []api.Value) ([]api.Value, api.Errno) {
 	})
 	sorted := make([]api.Value, len(l))
 	for i, place := range places {
-		sorted[i] = clone(l[place])
+		sorted[i] = clone.Value(l[place])
 	}
 	return sorted, api.OK
 }
