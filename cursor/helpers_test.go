@@ -12,6 +12,7 @@ import (
 	"lorgnette/api"
 	"lorgnette/cursor"
 	"lorgnette/dec"
+	"lorgnette/sample"
 )
 
 // node is a text as a reader finds it that goes through its bytes one by one.
@@ -173,13 +174,7 @@ func (n node) value(b string) (api.Value, api.Errno) {
 	return v, api.OK
 }
 
-// same tells whether values are, field by field.
-func same(a, b api.Value) bool {
-	return a.Kind == b.Kind && a.Str == b.Str &&
-		a.Num.Neg == b.Num.Neg && a.Num.Exp == b.Num.Exp && slices.Equal(a.Num.Limbs, b.Num.Limbs) &&
-		slices.EqualFunc(a.Arr, b.Arr, same) &&
-		slices.EqualFunc(a.Obj, b.Obj, func(f, g api.Field) bool { return f.Key == g.Key && same(f.Val, g.Val) })
-}
+var same = sample.Same
 
 // docOf is the Doc of bytes that are one text.
 func docOf(t *testing.T, b string) *cursor.Doc {

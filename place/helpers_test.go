@@ -1,44 +1,34 @@
 package place_test
 
 import (
-	"fmt"
-	"math"
 	"math/rand"
 	"slices"
-	"strconv"
-	"strings"
 	"testing"
 
 	"lorgnette/api"
-	"lorgnette/cursor"
-	"lorgnette/dec"
-	"lorgnette/quote"
+	"lorgnette/sample"
+)
+
+// What the tests are written with.
+var (
+	num       = sample.Num
+	text      = sample.Text
+	arr       = sample.Arr
+	obj       = sample.Obj
+	field     = sample.Field
+	of        = sample.Of
+	within    = sample.Within
+	underKeys = sample.UnderKeys
+	show      = sample.Show
+	same      = sample.Same
+	twin      = sample.Twin
+	spoil     = sample.Spoil
 )
 
 var null = api.Value{}
 
-func num(n int) api.Value          { return api.Value{Kind: api.Number, Num: dec.Of(n)} }
-func text(s string) api.Value      { return api.Value{Kind: api.Text, Str: s} }
-func arr(l ...api.Value) api.Value { return api.Value{Kind: api.Array, Arr: l} }
-func obj(l ...api.Field) api.Value { return api.Value{Kind: api.Object, Obj: l} }
-
-func field(key string, v api.Value) api.Field { return api.Field{Key: key, Val: v} }
-
 func part(start, end api.Value) api.Value {
 	return obj(field("start", start), field("end", end))
-}
-
-// of is the value that a text of JSON stands for.
-func of(s string) api.Value {
-	doc, err := cursor.New([]byte(s))
-	if err != api.OK {
-		panic(s)
-	}
-	v, err := doc.Value(doc.Root())
-	if err != api.OK {
-		panic(s)
-	}
-	return v
 }
 
 // pathsOf are the paths that an array of arrays stands for.
@@ -68,95 +58,6 @@ func items(count int) api.Value {
 	return v
 }
 
-// within is a value within so many arrays.
-func within(v api.Value, levels int) api.Value {
-	for range levels {
-		v = arr(v)
-	}
-	return v
-}
-
-// underKeys is a value within so many objects, each with the key k.
-func underKeys(v api.Value, levels int) api.Value {
-	for range levels {
-		v = obj(field("k", v))
-	}
-	return v
-}
-
-// show is a value's JSON, or something like it, of values that may not be, too; short enough for a message.
-func show(v api.Value) string {
-	shown := showDown(v, 12)
-	return shown[:min(400, len(shown))]
-}
-
-func showDown(v api.Value, levels int) string {
-	if levels == 0 {
-		return ".."
-	}
-	var parts []string
-	switch v.Kind {
-	case api.Null, api.False, api.True:
-		return []string{"null", "false", "true"}[v.Kind]
-	case api.Number:
-		if s, err := dec.Text(v.Num); err == api.OK {
-			return s
-		}
-	case api.Text:
-		return quote.Quote(v.Str[:min(40, len(v.Str))])
-	case api.Array:
-		for _, item := range v.Arr[:min(20, len(v.Arr))] {
-			parts = append(parts, showDown(item, levels-1))
-		}
-		return "[" + strings.Join(parts, ",") + "]"
-	case api.Object:
-		for _, f := range v.Obj[:min(20, len(v.Obj))] {
-			parts = append(parts, quote.Quote(f.Key)+":"+showDown(f.Val, levels-1))
-		}
-		return "{" + strings.Join(parts, ",") + "}"
-	}
-	return "(kind " + strconv.Itoa(v.Kind) + " " + fmt.Sprint(v.Num) + ")"
-}
-
-// same tells whether two values are the same in every field; nil and empty are.
-func same(a, b api.Value) bool {
-	return a.Kind == b.Kind && a.Str == b.Str && a.Num.Neg == b.Num.Neg && a.Num.Exp == b.Num.Exp && slices.Equal(a.Num.Limbs, b.Num.Limbs) &&
-		slices.EqualFunc(a.Arr, b.Arr, same) &&
-		slices.EqualFunc(a.Obj, b.Obj, func(f, g api.Field) bool { return f.Key == g.Key && same(f.Val, g.Val) })
-}
-
-// twin is a value that shares nothing with the one it is made from.
-func twin(v api.Value) api.Value {
-	v.Num.Limbs = append([]uint32{}, v.Num.Limbs...)
-	arr, obj := v.Arr, v.Obj
-	v.Arr, v.Obj = nil, nil
-	for _, item := range arr {
-		v.Arr = append(v.Arr, twin(item))
-	}
-	for _, f := range obj {
-		v.Obj = append(v.Obj, field(f.Key, twin(f.Val)))
-	}
-	return v
-}
-
-// spoil writes over all that a value's lists hold, also behind their ends.
-func spoil(v api.Value) {
-	limbs := v.Num.Limbs[:cap(v.Num.Limbs)]
-	for i := range limbs {
-		limbs[i] = 999999999
-	}
-	items := v.Arr[:cap(v.Arr)]
-	for i := range items {
-		spoil(items[i])
-		items[i] = text("spoilt")
-	}
-	fields := v.Obj[:cap(v.Obj)]
-	for i := range fields {
-		spoil(fields[i].Val)
-		fields[i] = field("spoilt", text("spoilt"))
-	}
-}
-
 // check holds what a call told of its arguments against what is wanted.
 func check(t *testing.T, got api.Value, err api.Errno, want api.Value, wantErr api.Errno, call string, args ...api.Value) {
 	t.Helper()
@@ -169,25 +70,9 @@ func check(t *testing.T, got api.Value, err api.Errno, want api.Value, wantErr a
 	t.Errorf("%s: %s, %d, not %s, %d", call, show(got), err, show(want), wantErr)
 }
 
-// endless is an array that has itself.
-func endless() api.Value {
-	l := make([]api.Value, 1)
-	l[0] = arr(l...)
-	return l[0]
-}
-
-// wrong are values that may not be.
+// wrong are values that may not be; two of them would be slices.
 func wrong() []api.Value {
-	return []api.Value{
-		{Kind: -1}, {Kind: 7}, {Kind: math.MaxInt}, {Kind: math.MinInt},
-		{Kind: api.Null, Str: "x"}, {Kind: api.Text, Arr: []api.Value{null}}, {Kind: api.Array, Obj: []api.Field{{}}}, {Kind: api.Object, Num: dec.Of(1)}, {Kind: api.Number, Str: "1"},
-		{Kind: api.Number, Num: api.Dec{Neg: true}}, {Kind: api.Number, Num: api.Dec{Exp: 1}}, {Kind: api.Number, Num: api.Dec{Limbs: []uint32{10}}},
-		{Kind: api.Number, Num: api.Dec{Limbs: []uint32{1}, Exp: 10001}}, {Kind: api.Number, Num: api.Dec{Limbs: []uint32{1}, Exp: math.MaxInt}}, {Kind: api.Number, Num: api.Dec{Limbs: make([]uint32, 201)}},
-		text("\xff"), text("a\xed\xa0\x80"), obj(field("\xc3", null)), obj(field("a", num(1)), field("a", num(1))),
-		part(api.Value{Kind: api.Number, Num: api.Dec{Limbs: []uint32{0}}}, null), obj(field("start", null), field("end", null), field("start", null)),
-		arr(text("ok"), text("\x80")), obj(field("a", arr(api.Value{Kind: 7}))),
-		within(null, 201), underKeys(num(1), 201), within(arr(), 200), within(null, 3000), endless(),
-	}
+	return append(sample.Wrong(), part(api.Value{Kind: api.Number, Num: api.Dec{Limbs: []uint32{0}}}, null), obj(field("start", null), field("end", null), field("start", null)))
 }
 
 // maker makes values and paths, the same at each run.

@@ -1,7 +1,6 @@
 package value_test
 
 import (
-	"fmt"
 	"math"
 	"math/rand"
 	"slices"
@@ -9,7 +8,31 @@ import (
 	"testing"
 
 	"lorgnette/api"
-	"lorgnette/dec"
+	"lorgnette/sample"
+)
+
+// What the tests are written with.
+var (
+	num           = sample.Num
+	text          = sample.Text
+	arr           = sample.Arr
+	obj           = sample.Obj
+	field         = sample.Field
+	literal       = sample.Of
+	within        = sample.Within
+	withinObjects = sample.UnderKeys
+	endless       = sample.Endless
+	endlessObject = sample.EndlessObject
+	wrong         = sample.Wrong
+	wrongWithin   = sample.WrongWithin
+	show          = sample.Show
+	showAll       = sample.ShowAll
+	same          = sample.Same
+	sameAll       = sample.SameAll
+	twin          = sample.Twin
+	twins         = sample.Twins
+	inOrder       = sample.InOrder
+	spoil         = sample.Spoil
 )
 
 var (
@@ -18,150 +41,14 @@ var (
 	verum  = api.Value{Kind: api.True}
 )
 
-func num(n int) api.Value          { return api.Value{Kind: api.Number, Num: dec.Of(n)} }
-func text(s string) api.Value      { return api.Value{Kind: api.Text, Str: s} }
-func arr(l ...api.Value) api.Value { return api.Value{Kind: api.Array, Arr: l} }
-func obj(l ...api.Field) api.Value { return api.Value{Kind: api.Object, Obj: l} }
-
-func field(key string, v api.Value) api.Field { return api.Field{Key: key, Val: v} }
-
-func literal(s string) api.Value {
-	d, err := dec.Parse(s)
-	if err != api.OK {
-		panic(s)
-	}
-	return api.Value{Kind: api.Number, Num: d}
-}
-
-// within is a value within so many arrays.
-func within(v api.Value, levels int) api.Value {
-	for range levels {
-		v = arr(v)
-	}
-	return v
-}
-
-// withinObjects is a value within so many objects.
-func withinObjects(v api.Value, levels int) api.Value {
-	for range levels {
-		v = obj(field("k", v))
-	}
-	return v
-}
-
 // copies are so many of a value.
 func copies(v api.Value, count int) []api.Value {
 	return slices.Repeat([]api.Value{v}, count)
 }
 
-// endless is an array that has itself, so many times.
-func endless(times int) api.Value {
-	l := make([]api.Value, times)
-	for i := range l {
-		l[i] = arr(l...)
-	}
-	return l[0]
-}
-
-// endlessObject is an object that has itself.
-func endlessObject() api.Value {
-	l := []api.Field{field("a", null), field("b", null)}
-	l[1].Val = obj(l...)
-	return l[1].Val
-}
-
-// show is short enough for a message, also of a value that has itself.
-func show(v api.Value) string {
-	return showDown(v, 6)
-}
-
-func showDown(v api.Value, levels int) string {
-	shown := fmt.Sprintf("%d", v.Kind)
-	if v.Kind == api.Number || len(v.Num.Limbs) > 0 || v.Num.Neg || v.Num.Exp != 0 {
-		shown += fmt.Sprintf("%v", v.Num)
-	}
-	if v.Kind == api.Text || v.Str != "" {
-		shown += fmt.Sprintf("%.20q", v.Str)
-	}
-	if levels == 0 {
-		return shown + ".."
-	}
-	for _, item := range v.Arr[:min(3, len(v.Arr))] {
-		shown += " [" + showDown(item, levels-1) + "]"
-	}
-	for _, f := range v.Obj[:min(3, len(v.Obj))] {
-		shown += fmt.Sprintf(" {%.20q %s}", f.Key, showDown(f.Val, levels-1))
-	}
-	return shown[:min(300, len(shown))]
-}
-
-func showAll(l []api.Value) string {
-	shown := make([]string, len(l))
-	for i, v := range l {
-		shown[i] = show(v)
-	}
-	return strings.Join(shown, "; ")
-}
-
-// same tells whether two values are the same in every field; nil and empty are.
-func same(a, b api.Value) bool {
-	return a.Kind == b.Kind && sameNumber(a.Num, b.Num) && a.Str == b.Str && sameAll(a.Arr, b.Arr) &&
-		slices.EqualFunc(a.Obj, b.Obj, func(f, g api.Field) bool { return f.Key == g.Key && same(f.Val, g.Val) })
-}
-
-func sameNumber(a, b api.Dec) bool {
-	return a.Neg == b.Neg && a.Exp == b.Exp && slices.Equal(a.Limbs, b.Limbs)
-}
-
-func sameAll(a, b []api.Value) bool {
-	return slices.EqualFunc(a, b, same)
-}
-
 // isNothing tells whether a value is the zero value.
 func isNothing(v api.Value) bool {
 	return same(v, api.Value{})
-}
-
-// twin is a value that shares nothing with the one it is made from.
-func twin(v api.Value) api.Value {
-	v.Num.Limbs = append([]uint32{}, v.Num.Limbs...)
-	v.Arr = twins(v.Arr)
-	fields := []api.Field{}
-	for _, f := range v.Obj {
-		fields = append(fields, api.Field{Key: f.Key, Val: twin(f.Val)})
-	}
-	v.Obj = fields
-	return v
-}
-
-func twins(l []api.Value) []api.Value {
-	out := []api.Value{}
-	for _, v := range l {
-		out = append(out, twin(v))
-	}
-	return out
-}
-
-// spoil writes over all that a value's lists hold, also behind their ends.
-func spoil(v api.Value) {
-	limbs := v.Num.Limbs[:cap(v.Num.Limbs)]
-	for i := range limbs {
-		limbs[i] = 999999999
-	}
-	for _, item := range v.Arr {
-		spoil(item)
-	}
-	for _, f := range v.Obj {
-		spoil(f.Val)
-	}
-	items := v.Arr[:cap(v.Arr)]
-	for i := range items {
-		items[i] = text("spoilt")
-	}
-	fields := v.Obj[:cap(v.Obj)]
-	for i := range fields {
-		fields[i] = field("spoilt", text("spoilt"))
-	}
 }
 
 // check holds a told value against the wanted one.
@@ -176,7 +63,7 @@ func check(t *testing.T, call string, got api.Value, err api.Errno, want api.Val
 var someTexts = []string{"", "\x00", "\"", "A", "Z", "a", "a\x00", "aa", "ab", "b", "é", "ab̈", "߿", "ࠀ", "\ud7ff", "\ue000", "�", "\uffff", "\U00010000", "\U0001d11e", "\U0010ffff"}
 
 // unsound are texts that aren't sound.
-var unsound = []string{"\xff", "a\x80", "\xc0\x80", "\xc3", "é\xc3", "\xe2\x82", "\xed\xa0\x80", "\xed\xbf\xbf", "\xf0\x9d\x84", "\xf4\x90\x80\x80", "\xf8\x88\x80\x80\x80", "a\xffb", "ok then\xfe"}
+var unsound = sample.Unsound()
 
 // ordinary are values of everyday, and those at the limits of what may be.
 func ordinary() []api.Value {
@@ -193,49 +80,6 @@ func ordinary() []api.Value {
 	}
 	for _, s := range someTexts {
 		l = append(l, text(s), obj(field(s, text(s))))
-	}
-	return l
-}
-
-// wrong are values that may not be, each for one cause alone.
-func wrong() []api.Value {
-	one := dec.Of(1)
-	l := []api.Value{
-		{Kind: -1}, {Kind: 7}, {Kind: math.MaxInt}, {Kind: math.MinInt},
-		{Kind: api.Number, Num: api.Dec{Neg: true}}, {Kind: api.Number, Num: api.Dec{Exp: 1}}, {Kind: api.Number, Num: api.Dec{Limbs: []uint32{10}}},
-		{Kind: api.Number, Num: api.Dec{Limbs: []uint32{0}}}, {Kind: api.Number, Num: api.Dec{Limbs: []uint32{1, 0}}}, {Kind: api.Number, Num: api.Dec{Limbs: []uint32{1000000001}}},
-		{Kind: api.Number, Num: api.Dec{Limbs: []uint32{1}, Exp: 10001}}, {Kind: api.Number, Num: api.Dec{Limbs: []uint32{1}, Exp: -10001}}, {Kind: api.Number, Num: api.Dec{Limbs: []uint32{1}, Exp: math.MaxInt}},
-		{Kind: api.Number, Num: api.Dec{Limbs: slices.Repeat([]uint32{999999999}, 45)}}, {Kind: api.Number, Num: api.Dec{Limbs: make([]uint32, 201)}},
-		obj(field("a", null), field("a", null)), obj(field("", num(1)), field("", num(2))), obj(field("a", null), field("b", null), field("c", null), field("a", null)),
-		obj(field("a", obj(field("b", null), field("b", null)))), obj(field("a", null), field("b", obj(field("x", null), field("x", null)))),
-		within(null, 201), within(arr(), 200), within(obj(), 200), withinObjects(num(5), 201), arr(num(1), within(num(2), 200)), obj(field("a", null), field("b", within(null, 200))),
-		within(null, 5000), endless(1), endless(3), endlessObject(),
-	}
-	for kind := api.Null; kind <= api.Object; kind++ {
-		if kind != api.Number {
-			l = append(l, api.Value{Kind: kind, Num: one}, api.Value{Kind: kind, Num: api.Dec{Exp: 1}}, api.Value{Kind: kind, Num: api.Dec{Exp: -1}}, api.Value{Kind: kind, Num: api.Dec{Neg: true}}, api.Value{Kind: kind, Num: api.Dec{Limbs: []uint32{0}}})
-		}
-		if kind != api.Text {
-			l = append(l, api.Value{Kind: kind, Str: "x"}, api.Value{Kind: kind, Str: "\x00"})
-		}
-		if kind != api.Array {
-			l = append(l, api.Value{Kind: kind, Arr: []api.Value{null}})
-		}
-		if kind != api.Object {
-			l = append(l, api.Value{Kind: kind, Obj: []api.Field{{}}})
-		}
-	}
-	for _, s := range unsound {
-		l = append(l, text(s), obj(field(s, null)), obj(field("a", null), field(s, null)))
-	}
-	return l
-}
-
-// wrongWithin are values that may not be, also where what may not be stands in others.
-func wrongWithin() []api.Value {
-	l := wrong()
-	for _, v := range wrong() {
-		l = append(l, arr(v), arr(null, arr(num(1), v), null), obj(field("a", num(1)), field("b", v), field("c", null)), obj(field("a", arr(obj(field("a", v))))))
 	}
 	return l
 }

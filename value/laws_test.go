@@ -53,19 +53,6 @@ func TestSameMeansSame(t *testing.T) {
 	}
 }
 
-// inOrder is a value with the fields of all its objects in the order of their keys.
-func inOrder(v api.Value) api.Value {
-	v = twin(v)
-	for i := range v.Arr {
-		v.Arr[i] = inOrder(v.Arr[i])
-	}
-	for i := range v.Obj {
-		v.Obj[i].Val = inOrder(v.Obj[i].Val)
-	}
-	slices.SortFunc(v.Obj, func(f, g api.Field) int { return slices.Compare([]rune(f.Key), []rune(g.Key)) })
-	return v
-}
-
 // TestSetGotTakenAway: what was set is got, and taken away again.
 func TestSetGotTakenAway(t *testing.T) {
 	m := newMaker(10)
