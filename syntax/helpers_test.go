@@ -3,42 +3,14 @@ package syntax_test
 import (
 	"fmt"
 	"math/rand"
-	"regexp"
 	"slices"
 	"strings"
 	"testing"
 
 	"lorgnette/api"
+	"lorgnette/grove"
 	"lorgnette/syntax"
 )
-
-// kindNames are the kinds of nodes as messages tell them.
-var kindNames = [...]string{"?", ".", "..", "num", "text", "part", "format", "arr", "obj", "entry", "index", "slice", "each", "try", "neg", "pipe", "comma", "op", "if", "reduce", "foreach", "label", "break", "bind", "var", "call", "def", "param", "pvar", "parr", "pobj", "pkey", "none"}
-
-// bare is a text that is shown without quotes.
-var bare = regexp.MustCompile(`^[^\s"():]+$`)
-
-// show is a tree as one text: no two trees have the same.
-func show(n api.Node) string {
-	if n.Kind < 0 || n.Kind >= len(kindNames) {
-		return fmt.Sprint(n)
-	}
-	s := kindNames[n.Kind]
-	switch {
-	case bare.MatchString(n.Text):
-		s += ":" + n.Text
-	case n.Text != "":
-		s += fmt.Sprintf(":%q", n.Text)
-	}
-	if len(n.Kids) == 0 {
-		return s
-	}
-	kids := make([]string, len(n.Kids))
-	for i, kid := range n.Kids {
-		kids[i] = show(kid)
-	}
-	return s + "(" + strings.Join(kids, " ") + ")"
-}
 
 // answer is what Parse tells.
 type answer struct {
@@ -53,14 +25,14 @@ func (a answer) String() string {
 
 // fault is an answer without a tree.
 func fault(at int, err api.Errno) answer {
-	return answer{show(api.Node{}), at, err}
+	return answer{grove.Show(api.Node{}), at, err}
 }
 
 // given asks that a text is read as it should be.
 func given(t *testing.T, s string, want answer) {
 	t.Helper()
 	n, at, err := syntax.Parse(s)
-	if got := (answer{show(n), at, err}); got != want {
+	if got := (answer{grove.Show(n), at, err}); got != want {
 		t.Errorf("Parse(%.300q): %s, not %s", s, got, want)
 	}
 }
@@ -96,16 +68,7 @@ func same(t *testing.T, s, as string) {
 	if err != api.OK {
 		t.Errorf("Parse(%q): %d", as, err)
 	}
-	right(t, s, show(n))
-}
-
-// depthOf is how deep a tree is, by the document's words alone.
-func depthOf(n api.Node) int {
-	deepest := 0
-	for _, kid := range n.Kids {
-		deepest = max(deepest, depthOf(kid))
-	}
-	return 1 + deepest
+	right(t, s, grove.Show(n))
 }
 
 // maker makes texts, the same ones at each run.

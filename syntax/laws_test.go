@@ -7,6 +7,7 @@ import (
 	"testing"
 
 	"lorgnette/api"
+	"lorgnette/grove"
 	"lorgnette/lex"
 	"lorgnette/syntax"
 )
@@ -24,8 +25,8 @@ func TestBlanksTurnNothing(t *testing.T) {
 		for range 3 {
 			other := between() + spelt(tokens, between)
 			n2, at2, err2 := syntax.Parse(other)
-			if show(n2) != show(n) || err2 != err || tokenAt(other, at2) != tokenAt(s, at) && err != api.OK {
-				t.Errorf("Parse(%q): %.300s, %d, %d; %q: %.300s, %d, %d", s, show(n), at, err, other, show(n2), at2, err2)
+			if grove.Show(n2) != grove.Show(n) || err2 != err || tokenAt(other, at2) != tokenAt(s, at) && err != api.OK {
+				t.Errorf("Parse(%q): %.300s, %d, %d; %q: %.300s, %d, %d", s, grove.Show(n), at, err, other, grove.Show(n2), at2, err2)
 			}
 		}
 	}
@@ -87,11 +88,11 @@ func TestAllThatIsTold(t *testing.T) {
 		n, at, err := syntax.Parse(s)
 		switch {
 		case err == api.OK:
-			if depth := syntax.Depth(n); depth > 200 || depth != depthOf(n) || at != 0 || !ofKinds(n, filters) {
-				t.Errorf("Parse(%q): %.300s, %d", s, show(n), at)
+			if depth := syntax.Depth(n); depth > 200 || depth != grove.Depth(n) || at != 0 || !ofKinds(n, filters) {
+				t.Errorf("Parse(%q): %.300s, %d", s, grove.Show(n), at)
 			}
-		case show(n) != "?" || at < 0 || at > len(s) || at == len(s) && err != api.ErrShort || err == api.ErrForm && tokenAt(s, at) < 0:
-			t.Errorf("Parse(%q): %.300s, %d, %d", s, show(n), at, err)
+		case grove.Show(n) != "?" || at < 0 || at > len(s) || at == len(s) && err != api.ErrShort || err == api.ErrForm && tokenAt(s, at) < 0:
+			t.Errorf("Parse(%q): %.300s, %d, %d", s, grove.Show(n), at, err)
 		}
 	}
 }

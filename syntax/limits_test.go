@@ -5,6 +5,7 @@ import (
 	"testing"
 
 	"lorgnette/api"
+	"lorgnette/grove"
 	"lorgnette/syntax"
 )
 
@@ -81,8 +82,8 @@ func TestTreesTooDeep(t *testing.T) {
 			rest := 199 - times*h.levels
 			s := within("("+strings.Repeat("-", rest)+"1)", h.head, h.tail, times)
 			n, at, err := syntax.Parse(s)
-			if depthOf(n) != 200 || syntax.Depth(n) != 200 || at != 0 || err != api.OK {
-				t.Errorf("Parse(%.40q): %d levels, %d, %d", s, depthOf(n), at, err)
+			if grove.Depth(n) != 200 || syntax.Depth(n) != 200 || at != 0 || err != api.OK {
+				t.Errorf("Parse(%.40q): %d levels, %d, %d", s, grove.Depth(n), at, err)
 			}
 			wrong(t, "-("+s+")", 0, api.ErrDepth)
 			deeper := within("("+strings.Repeat("-", rest+1)+"1)", h.head, h.tail, times)
@@ -97,8 +98,8 @@ func TestTreesTooDeep(t *testing.T) {
 	// Patterns, and texts, are parts of the tree.
 	for _, s := range []string{"1 as [$x] | 1", "1 as {a: $x} | 1", `"\(1)"`} {
 		n, _, _ := syntax.Parse(s)
-		depth := depthOf(n)
-		right(t, strings.Repeat("-", 200-depth)+s, within(show(n), "neg(", ")", 200-depth))
+		depth := grove.Depth(n)
+		right(t, strings.Repeat("-", 200-depth)+s, within(grove.Show(n), "neg(", ")", 200-depth))
 		wrong(t, strings.Repeat("-", 201-depth)+s, 0, api.ErrDepth)
 	}
 }

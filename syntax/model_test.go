@@ -3,6 +3,7 @@ package syntax_test
 import (
 	"lorgnette/api"
 	"lorgnette/dec"
+	"lorgnette/grove"
 	"lorgnette/lex"
 )
 
@@ -27,10 +28,10 @@ func modelOf(s string) answer {
 		return wrong
 	}
 	n := all.tree()
-	if depthOf(n) > 200 {
+	if grove.Depth(n) > 200 {
 		return fault(0, api.ErrDepth)
 	}
-	return answer{show(n), 0, api.OK}
+	return answer{grove.Show(n), 0, api.OK}
 }
 
 // branchOf is what the grammar finds a text to stand for, or what is wrong with it.
@@ -128,14 +129,6 @@ func (m *model) take(called string) api.Token {
 	return tok
 }
 
-func node(kind int, text string, kids ...api.Node) api.Node {
-	return api.Node{Kind: kind, Text: text, Kids: kids}
-}
-
-func nameText(name string) api.Node {
-	return node(api.NodeText, "", node(api.NodePart, name))
-}
-
 // is tells whether a branch is a sign or a word.
 func (b branch) is(sign string) bool {
 	return b.rule == "" && b.token.Text == sign && (b.token.Kind == api.TokOp || b.token.Kind == api.TokName)
@@ -162,21 +155,21 @@ func (b branch) tree() api.Node {
 		return pipeTree(b.kids)
 	case "param":
 		if first.token.Kind == api.TokVar {
-			return node(api.NodeParam, "$"+first.token.Text)
+			return grove.Node(api.NodeParam, "$"+first.token.Text)
 		}
-		return node(api.NodeParam, first.token.Text)
+		return grove.Node(api.NodeParam, first.token.Text)
 	case "comma":
-		return fromLeft(b.kids, func(sign string, a, c api.Node) api.Node { return node(api.NodeComma, "", a, c) })
+		return fromLeft(b.kids, func(sign string, a, c api.Node) api.Node { return grove.Node(api.NodeComma, "", a, c) })
 	case "alt", "upd", "or", "and", "cmp", "sum", "prod": // the right side of alt is an alt
-		return fromLeft(b.kids, func(sign string, a, c api.Node) api.Node { return node(api.NodeOp, sign, a, c) })
+		return fromLeft(b.kids, func(sign string, a, c api.Node) api.Node { return grove.Node(api.NodeOp, sign, a, c) })
 	case "neg":
 		if first.is("-") {
-			return node(api.NodeNeg, "", b.kids[1].tree())
+			return grove.Node(api.NodeNeg, "", b.kids[1].tree())
 		}
 		return first.tree()
 	case "bind":
 		if len(b.kids) > 1 {
-			return node(api.NodeBind, "", first.tree(), b.kids[2].tree(), b.kids[4].tree())
+			return grove.Node(api.NodeBind, "", first.tree(), b.kids[2].tree(), b.kids[4].tree())
 		}
 		return first.tree()
 	case "post":
@@ -192,11 +185,11 @@ func (b branch) tree() api.Node {
 	case "pattern":
 		switch {
 		case first.is("["):
-			return node(api.NodePatArr, "", trees(b.kids, "pattern")...)
+			return grove.Node(api.NodePatArr, "", trees(b.kids, "pattern")...)
 		case first.is("{"):
-			return node(api.NodePatObj, "", trees(b.kids, "patkey")...)
+			return grove.Node(api.NodePatObj, "", trees(b.kids, "patkey")...)
 		}
-		return node(api.NodePatVar, first.token.Text)
+		return grove.Node(api.NodePatVar, first.token.Text)
 	case "patkey":
 		return patKeyTree(b.kids)
 	case "text":
@@ -216,11 +209,11 @@ func fromLeft(l []branch, join func(sign string, a, c api.Node) api.Node) api.No
 func pipeTree(l []branch) api.Node {
 	switch {
 	case l[0].is("def"):
-		return node(api.NodeDef, l[1].token.Text, append(trees(l, "param"), trees(l, "pipe")...)...)
+		return grove.Node(api.NodeDef, l[1].token.Text, append(trees(l, "param"), trees(l, "pipe")...)...)
 	case l[0].is("label"):
-		return node(api.NodeLabel, l[1].token.Text, l[3].tree())
+		return grove.Node(api.NodeLabel, l[1].token.Text, l[3].tree())
 	case len(l) > 1:
-		return node(api.NodePipe, "", l[0].tree(), l[2].tree())
+		return grove.Node(api.NodePipe, "", l[0].tree(), l[2].tree())
 	}
 	return l[0].tree()
 }
@@ -228,29 +221,29 @@ func pipeTree(l []branch) api.Node {
 func suffixed(n api.Node, l []branch) api.Node {
 	switch {
 	case l[0].token.Kind == api.TokField:
-		return node(api.NodeIndex, "", n, nameText(l[0].token.Text))
+		return grove.Node(api.NodeIndex, "", n, grove.Name(l[0].token.Text))
 	case l[0].is("?"):
-		return node(api.NodeTry, "", n)
+		return grove.Node(api.NodeTry, "", n)
 	case l[len(l)-1].rule == "text":
-		return node(api.NodeIndex, "", n, l[len(l)-1].tree())
+		return grove.Node(api.NodeIndex, "", n, l[len(l)-1].tree())
 	}
 	inner := l[len(l)-2].kids
-	none := node(api.NodeNone, "")
+	none := grove.Node(api.NodeNone, "")
 	switch {
 	case len(inner) == 0:
-		return node(api.NodeEach, "", n)
+		return grove.Node(api.NodeEach, "", n)
 	case len(inner) == 1:
-		return node(api.NodeIndex, "", n, inner[0].tree())
+		return grove.Node(api.NodeIndex, "", n, inner[0].tree())
 	case inner[0].rule == "colon":
-		return node(api.NodeSlice, "", n, none, inner[1].tree())
+		return grove.Node(api.NodeSlice, "", n, none, inner[1].tree())
 	case len(inner) == 2:
-		return node(api.NodeSlice, "", n, inner[0].tree(), none)
+		return grove.Node(api.NodeSlice, "", n, inner[0].tree(), none)
 	}
-	return node(api.NodeSlice, "", n, inner[0].tree(), inner[2].tree())
+	return grove.Node(api.NodeSlice, "", n, inner[0].tree(), inner[2].tree())
 }
 
 func termTree(l []branch) api.Node {
-	self := node(api.NodeSelf, "")
+	self := grove.Node(api.NodeSelf, "")
 	tok, last := l[0].token, l[len(l)-1]
 	switch {
 	case l[0].rule == "text":
@@ -258,15 +251,15 @@ func termTree(l []branch) api.Node {
 	case tok.Kind == api.TokFormat && len(l) > 1:
 		return textTree(tok.Text, l[1].kids)
 	case l[0].is(".") && len(l) > 1:
-		return node(api.NodeIndex, "", self, last.tree())
+		return grove.Node(api.NodeIndex, "", self, last.tree())
 	case l[0].is("("):
 		return l[1].tree()
 	case tok.Kind == api.TokField:
-		return node(api.NodeIndex, "", self, nameText(tok.Text))
+		return grove.Node(api.NodeIndex, "", self, grove.Name(tok.Text))
 	case l[0].is("["):
-		return node(api.NodeArray, "", trees(l, "pipe")...)
+		return grove.Node(api.NodeArray, "", trees(l, "pipe")...)
 	case l[0].is("{"):
-		return node(api.NodeObject, "", trees(l, "entry")...)
+		return grove.Node(api.NodeObject, "", trees(l, "entry")...)
 	case tok.Kind == api.TokName && lex.Word(tok.Text):
 		return wordTree(tok.Text, l)
 	}
@@ -275,30 +268,30 @@ func termTree(l []branch) api.Node {
 	case l[0].is("."):
 		return self
 	case l[0].is(".."):
-		return node(api.NodeAll, "")
+		return grove.Node(api.NodeAll, "")
 	}
-	return node(kinds[tok.Kind], tok.Text, trees(l, "pipe")...)
+	return grove.Node(kinds[tok.Kind], tok.Text, trees(l, "pipe")...)
 }
 
 func wordTree(word string, l []branch) api.Node {
 	within := trees(l, "post", "pattern", "pipe")
-	none := node(api.NodeNone, "")
+	none := grove.Node(api.NodeNone, "")
 	switch word {
 	case "try":
-		return node(api.NodeTry, "", within...)
+		return grove.Node(api.NodeTry, "", within...)
 	case "break":
-		return node(api.NodeBreak, l[1].token.Text)
+		return grove.Node(api.NodeBreak, l[1].token.Text)
 	case "reduce":
-		return node(api.NodeReduce, "", within...)
+		return grove.Node(api.NodeReduce, "", within...)
 	case "foreach":
-		return node(api.NodeForeach, "", append(within, none)[:5]...)
+		return grove.Node(api.NodeForeach, "", append(within, none)[:5]...)
 	}
 	n := none
 	if len(within)%2 == 1 {
 		n = within[len(within)-1]
 	}
 	for i := len(within)/2*2 - 2; i >= 0; i -= 2 {
-		n = node(api.NodeIf, "", within[i], within[i+1], n)
+		n = grove.Node(api.NodeIf, "", within[i], within[i+1], n)
 	}
 	return n
 }
@@ -308,28 +301,28 @@ func entryTree(l []branch) api.Node {
 	var key api.Node
 	switch {
 	case tok.Kind == api.TokVar:
-		return node(api.NodeEntry, "", nameText(tok.Text), node(api.NodeVar, tok.Text))
+		return grove.Node(api.NodeEntry, "", grove.Name(tok.Text), grove.Node(api.NodeVar, tok.Text))
 	case l[0].is("("):
-		return node(api.NodeEntry, "", l[1].tree(), last.tree())
+		return grove.Node(api.NodeEntry, "", l[1].tree(), last.tree())
 	case l[0].rule == "text":
 		key = l[0].tree()
 	default:
-		key = nameText(tok.Text)
+		key = grove.Name(tok.Text)
 	}
 	if len(l) > 1 {
-		return node(api.NodeEntry, "", key, last.tree())
+		return grove.Node(api.NodeEntry, "", key, last.tree())
 	}
-	return node(api.NodeEntry, "", key, node(api.NodeIndex, "", node(api.NodeSelf, ""), key))
+	return grove.Node(api.NodeEntry, "", key, grove.Node(api.NodeIndex, "", grove.Node(api.NodeSelf, ""), key))
 }
 
 func patKeyTree(l []branch) api.Node {
 	switch l[0].token.Kind {
 	case api.TokVar:
-		return node(api.NodePatKey, l[0].token.Text, node(api.NodePatVar, l[0].token.Text))
+		return grove.Node(api.NodePatKey, l[0].token.Text, grove.Node(api.NodePatVar, l[0].token.Text))
 	case api.TokName:
-		return node(api.NodePatKey, l[0].token.Text, l[2].tree())
+		return grove.Node(api.NodePatKey, l[0].token.Text, l[2].tree())
 	}
-	return node(api.NodePatKey, l[1].token.Text, l[len(l)-1].tree()) // behind the quote: what is said, or the other quote
+	return grove.Node(api.NodePatKey, l[1].token.Text, l[len(l)-1].tree()) // behind the quote: what is said, or the other quote
 }
 
 func textTree(format string, l []branch) api.Node {
@@ -339,8 +332,8 @@ func textTree(format string, l []branch) api.Node {
 		case b.rule == "pipe":
 			kids = append(kids, b.tree())
 		case b.token.Kind == api.TokText:
-			kids = append(kids, node(api.NodePart, b.token.Text))
+			kids = append(kids, grove.Node(api.NodePart, b.token.Text))
 		}
 	}
-	return node(api.NodeText, format, kids...)
+	return grove.Node(api.NodeText, format, kids...)
 }

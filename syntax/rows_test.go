@@ -5,7 +5,9 @@ import (
 	"testing"
 
 	"lorgnette/api"
+	"lorgnette/grove"
 	"lorgnette/lex"
+	"lorgnette/syntax"
 )
 
 // words are what filters' texts are put together of, each of which is some tokens, and what can be none.
@@ -69,7 +71,7 @@ func TestSigns(t *testing.T) {
 func TestSentences(t *testing.T) {
 	t.Parallel()
 	m := newMaker(1)
-	rights, kinds := 0, map[string]bool{}
+	rights, kinds := 0, map[int]bool{}
 	for i := range 10000 {
 		s := spelt(m.sentence("pipe", 1+i%40), blank)
 		want := modelOf(s)
@@ -78,13 +80,10 @@ func TestSentences(t *testing.T) {
 			continue
 		}
 		rights++
-		for _, kind := range kindNames[1:] {
-			if strings.Contains(" "+want.tree, " "+kind) || strings.Contains(want.tree, "("+kind) {
-				kinds[kind] = true
-			}
-		}
+		n, _, _ := syntax.Parse(s)
+		grove.Each(&n, func(n *api.Node) { kinds[n.Kind] = true })
 	}
-	if rights < 9000 || len(kinds) != len(kindNames)-1 {
+	if rights < 9000 || len(kinds) != api.NodeNone {
 		t.Errorf("%d are right, of kinds %v", rights, kinds)
 	}
 }
